@@ -321,23 +321,28 @@ func TestP01NotTexts(t *testing.T) {
 	}
 }
 
-// TestP01ShortTexts reads every short text over the characters that occur in texts.
-func TestP01ShortTexts(t *testing.T) {
+// shortTexts returns all texts of at most longest of the given characters.
+func shortTexts(characters string, longest int) []string {
 	texts := []string{""}
-	for first, size := 0, 0; size < 4; size++ {
+	for first := 0; longest > 0; longest-- {
 		last := len(texts)
 		for _, s := range texts[first:last] {
-			for _, c := range []string{".", "-", "+", "0", "1", "9", " "} {
-				texts = append(texts, s+c)
+			for _, c := range characters {
+				texts = append(texts, s+string(c))
 			}
 		}
 		first = last
 	}
+	return texts
+}
+
+// TestP01ShortTexts reads every short text over the characters that occur in texts.
+func TestP01ShortTexts(t *testing.T) {
 	values := map[string]int64{".": bottom}
 	for a := int64(-9999); a <= 9999; a++ {
 		values[strconv.FormatInt(a, 10)] = a
 	}
-	for _, s := range texts {
+	for _, s := range shortTexts(".-+019 ", 4) {
 		want, wantOK := values[s]
 		if a, ok := impl.ReadValue(s); a != want || ok != wantOK {
 			t.Errorf("ReadValue(%q) = %d, %v, want %d, %v", s, a, ok, want, wantOK)

@@ -632,17 +632,7 @@ func TestP02NotTexts(t *testing.T) {
 func TestP02ShortTexts(t *testing.T) {
 	entry := `(\.|0|-?[1-9][0-9]*)`
 	pattern := regexp.MustCompile(`^` + entry + `(,` + entry + `)*(;` + entry + `(,` + entry + `)*)*$`)
-	texts := []string{""}
-	for first, size := 0, 0; size < 6; size++ {
-		last := len(texts)
-		for _, s := range texts[first:last] {
-			for _, c := range []string{".", "-", "0", "1", ",", ";", " "} {
-				texts = append(texts, s+c)
-			}
-		}
-		first = last
-	}
-	for _, s := range texts {
+	for _, s := range shortTexts(".-01,; ", 6) {
 		want := pattern.MatchString(s)
 		for _, row := range strings.Split(s, ";") {
 			want = want && strings.Count(row, ",")*(strings.Count(s, ";")+1) == strings.Count(s, ",")
