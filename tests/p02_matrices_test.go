@@ -713,6 +713,13 @@ func TestP02ResultsShareNoMemory(t *testing.T) {
 			return [][]int64{y}, code
 		},
 	}
+	checkCalls(t, calls, before)
+}
+
+// checkCalls looks at the memory of results: each call is made twice with a copy of the rows that
+// has to stay as it is, whatever is written into the first result.
+func checkCalls(t *testing.T, calls map[string]func(a [][]int64) ([][]int64, int64), before [][]int64) {
+	t.Helper()
 	for name, call := range calls {
 		a := withSpare(before)
 		result, code := call(a)
