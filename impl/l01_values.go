@@ -174,11 +174,7 @@ func MakeRatio(num int64, den int64) (Ratio, int64) {
 	if den == 0 {
 		return Ratio{}, ErrState
 	}
-	divisor := greatestDivisor(num, den)
-	if den < 0 {
-		divisor = -divisor
-	}
-	return Ratio{Num: num / divisor, Den: den / divisor}, ErrNone
+	return reduced(num, den), ErrNone
 }
 
 // CompareRatios returns -1, 0 or 1 if a is less than, equal to or greater than b, and ErrNone.
@@ -186,11 +182,33 @@ func CompareRatios(a Ratio, b Ratio) (int64, int64) {
 	if !IsRatio(a) || !IsRatio(b) {
 		return 0, ErrInvalid
 	}
-	return int64(cmp.Compare(a.Num*b.Den, b.Num*a.Den)), ErrNone
+	return int64(a.compare(b)), ErrNone
 }
 
-// greatestDivisor returns the greatest common divisor of two finite numbers, of which b is not 0;
-// the signs do not matter.
+// compare works also for ratios with small denominators whose numerators are not finite.
+func (r Ratio) compare(s Ratio) int { return cmp.Compare(r.Num*s.Den, s.Num*r.Den) }
+
+// checked returns a ratio in lowest terms and its error code as a function that computes it
+// returns them.
+func (r Ratio) checked() (Ratio, int64) {
+	if !IsRatio(r) {
+		return Ratio{}, ErrLimit
+	}
+	return r, ErrNone
+}
+
+// reduced returns num / den in lowest terms, where den is not 0. The result is a valid ratio if
+// its numbers are not too great for one.
+func reduced(num int64, den int64) Ratio {
+	divisor := greatestDivisor(num, den)
+	if den < 0 {
+		divisor = -divisor
+	}
+	return Ratio{Num: num / divisor, Den: den / divisor}
+}
+
+// greatestDivisor returns the greatest common divisor of two numbers, of which b is not 0; the
+// signs do not matter.
 func greatestDivisor(a int64, b int64) int64 {
 	for a != 0 {
 		a, b = b%a, a
