@@ -1,6 +1,7 @@
 package tests
 
 import (
+	"iter"
 	"math"
 	"math/rand/v2"
 	"slices"
@@ -168,6 +169,42 @@ func slopes(random *rand.Rand, n int, limit int64) [][]int64 {
 		}
 	}
 	return a
+}
+
+// manyGraphs are graphs of one kind with low to high nodes, made so many times for each number.
+func manyGraphs(random *rand.Rand, low, high, times int, kind func(random *rand.Rand, n int) [][][]int64) iter.Seq[[][]int64] {
+	return func(yield func([][]int64) bool) {
+		for n := low; n <= high; n++ {
+			for range times {
+				for _, a := range kind(random, n) {
+					if !yield(a) {
+						return
+					}
+				}
+			}
+		}
+	}
+}
+
+// checkVaried looks whether random arguments came to each of some codes often enough.
+func checkVaried(t *testing.T, codes map[int64]int, least map[int64]int) {
+	t.Helper()
+	for code, count := range least {
+		if codes[code] < count {
+			t.Errorf("the arguments are too much alike: the code %d comes %d times, and the codes %v", code, codes[code], codes)
+		}
+	}
+}
+
+// checkEach makes a check of many graphs, and looks whether it comes to each of some codes often
+// enough.
+func checkEach(t *testing.T, many iter.Seq[[][]int64], check func(t *testing.T, a [][]int64) int64, least map[int64]int) {
+	t.Helper()
+	codes := map[int64]int{}
+	for a := range many {
+		codes[check(t, a)]++
+	}
+	checkVaried(t, codes, least)
 }
 
 func checkList(t *testing.T, what string, list []int64, code int64, want []int64, wantCode int64) {
@@ -418,17 +455,13 @@ func TestP03PositiveCycle(t *testing.T) {
 
 func TestP03PositiveCycleIsTheSmallest(t *testing.T) {
 	random := newRandom(32)
-	for n := 1; n <= 6; n++ {
-		for range 60 {
-			for _, a := range graphs(random, n) {
-				want, wantCode := plainPositive(a), int64(impl.ErrNone)
-				if want == nil {
-					wantCode = impl.ErrNotFound
-				}
-				cycle, code := impl.PositiveCycle(a)
-				checkList(t, "PositiveCycle of "+impl.MatrixText(a), cycle, code, want, wantCode)
-			}
+	for a := range manyGraphs(random, 1, 6, 60, graphs) {
+		want, wantCode := plainPositive(a), int64(impl.ErrNone)
+		if want == nil {
+			wantCode = impl.ErrNotFound
 		}
+		cycle, code := impl.PositiveCycle(a)
+		checkList(t, "PositiveCycle of "+impl.MatrixText(a), cycle, code, want, wantCode)
 	}
 }
 
@@ -503,34 +536,24 @@ func wantClosure(powers, closure [][]int64) ([][]int64, int64) {
 func TestP03ClosuresAreSumsOfPowers(t *testing.T) {
 	random := newRandom(33)
 	codes := map[int64]int{}
-	for n := 1; n <= maxSize; n++ {
-		for range 40 {
-			for _, a := range graphs(random, n) {
-				powers := plainPowers(a)
-				want, wantCode := wantClosure(powers, powers)
-				plus, code := impl.PlusMatrix(a)
-				checkMatrix(t, "PlusMatrix of "+impl.MatrixText(a), plus, code, want, wantCode)
-				want, wantCode = wantClosure(powers, plainSum(powers, unitOf(n)))
-				star, code := impl.StarMatrix(a)
-				checkMatrix(t, "StarMatrix of "+impl.MatrixText(a), star, code, want, wantCode)
-				codes[code]++
-			}
-		}
+	for a := range manyGraphs(random, 1, maxSize, 40, graphs) {
+		powers := plainPowers(a)
+		want, wantCode := wantClosure(powers, powers)
+		plus, code := impl.PlusMatrix(a)
+		checkMatrix(t, "PlusMatrix of "+impl.MatrixText(a), plus, code, want, wantCode)
+		want, wantCode = wantClosure(powers, plainSum(powers, unitOf(len(a))))
+		star, code := impl.StarMatrix(a)
+		checkMatrix(t, "StarMatrix of "+impl.MatrixText(a), star, code, want, wantCode)
+		codes[code]++
 	}
-	if codes[impl.ErrNone] < 500 || codes[impl.ErrState] < 500 || codes[impl.ErrLimit] < 50 {
-		t.Errorf("the graphs are too much alike: %v", codes)
-	}
+	checkVaried(t, codes, map[int64]int{impl.ErrNone: 500, impl.ErrState: 500, impl.ErrLimit: 50})
 }
 
 // TestP03Guarantee is the promise: either a star that is closed, or a positive cycle, is told.
 func TestP03Guarantee(t *testing.T) {
 	random := newRandom(34)
-	for n := 1; n <= maxSize; n++ {
-		for range 40 {
-			for _, a := range graphs(random, n) {
-				checkStarOrCycle(t, a)
-			}
-		}
+	for a := range manyGraphs(random, 1, maxSize, 40, graphs) {
+		checkStarOrCycle(t, a)
 	}
 }
 
@@ -632,21 +655,17 @@ func plainHeaviest(a [][]int64, from, to int64) []int64 {
 
 func TestP03HeaviestPathsAreTheSmallest(t *testing.T) {
 	random := newRandom(35)
-	for n := 1; n <= 6; n++ {
-		for range 10 {
-			for _, a := range graphs(random, n) {
-				from, to := random.Int64N(int64(n)), random.Int64N(int64(n))
-				want, wantCode := plainHeaviest(a, from, to), int64(impl.ErrNone)
-				if want == nil {
-					wantCode = impl.ErrNotFound
-				}
-				if hasPositive(plainPowers(a)) {
-					want, wantCode = nil, impl.ErrState
-				}
-				path, code := impl.HeaviestPath(a, from, to)
-				checkList(t, "HeaviestPath of "+impl.MatrixText(a), path, code, want, wantCode)
-			}
+	for a := range manyGraphs(random, 1, 6, 10, graphs) {
+		from, to := random.Int64N(int64(len(a))), random.Int64N(int64(len(a)))
+		want, wantCode := plainHeaviest(a, from, to), int64(impl.ErrNone)
+		if want == nil {
+			wantCode = impl.ErrNotFound
 		}
+		if hasPositive(plainPowers(a)) {
+			want, wantCode = nil, impl.ErrState
+		}
+		path, code := impl.HeaviestPath(a, from, to)
+		checkList(t, "HeaviestPath of "+impl.MatrixText(a), path, code, want, wantCode)
 	}
 }
 
@@ -768,13 +787,9 @@ func plainMax(x, y []int64) []int64 { return plainSum([][]int64{x}, [][]int64{y}
 // The least fixed point is reached from b by putting in what is known so far, again and again.
 func TestP03FixedPointIsTheLeast(t *testing.T) {
 	random := newRandom(37)
-	for n := 1; n <= maxSize; n++ {
-		for range 10 {
-			for _, a := range graphs(random, n) {
-				for _, b := range [][]int64{randomMatrix(random, 1, n, 20)[0], edgeMatrix(random, 1, n)[0], randomMatrix(random, 1, n, maxFinite)[0]} {
-					checkFixedPoint(t, a, b)
-				}
-			}
+	for a := range manyGraphs(random, 1, maxSize, 10, graphs) {
+		for _, b := range [][]int64{randomMatrix(random, 1, len(a), 20)[0], edgeMatrix(random, 1, len(a))[0], randomMatrix(random, 1, len(a), maxFinite)[0]} {
+			checkFixedPoint(t, a, b)
 		}
 	}
 }

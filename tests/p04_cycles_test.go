@@ -224,9 +224,7 @@ func TestP04AllShortLists(t *testing.T) {
 			}
 		}
 	}
-	if codes[impl.ErrNone] < 50 || codes[impl.ErrNotFound] < 50 || codes[impl.ErrLimit] < 5 {
-		t.Errorf("the lists are too much alike: %v", codes)
-	}
+	checkVaried(t, codes, map[int64]int{impl.ErrNone: 50, impl.ErrNotFound: 50, impl.ErrLimit: 5})
 }
 
 func TestP04CycleMeans(t *testing.T) {
@@ -356,19 +354,13 @@ func TestP04NoCycles(t *testing.T) {
 func TestP04BestCyclesAreTheSmallest(t *testing.T) {
 	random := newRandom(42)
 	codes := map[int64]int{}
-	for n := 1; n <= 6; n++ {
-		for range 40 {
-			for _, a := range graphs(random, n) {
-				codes[checkBest(t, a)]++
-			}
-		}
+	for a := range manyGraphs(random, 1, 6, 40, graphs) {
+		codes[checkBest(t, a)]++
 	}
 	for _, a := range graphs(random, 7) {
 		codes[checkBest(t, a)]++
 	}
-	if codes[impl.ErrNone] < 1000 || codes[impl.ErrNotFound] < 50 || codes[impl.ErrLimit] < 50 {
-		t.Errorf("the graphs are too much alike: %v", codes)
-	}
+	checkVaried(t, codes, map[int64]int{impl.ErrNone: 1000, impl.ErrNotFound: 50, impl.ErrLimit: 50})
 }
 
 // checkBest compares with all cycles and returns the code of CycleMean.
@@ -425,35 +417,20 @@ func plainTable(a [][]int64) *big.Rat {
 
 func TestP04TableFollowsTheDefinition(t *testing.T) {
 	random := newRandom(43)
-	for n := 1; n <= 4; n++ {
-		for range 20 {
-			for _, a := range graphs(random, n) {
-				want, wantCode := impl.Ratio{}, int64(impl.ErrNotFound)
-				if mean := plainTable(a); mean != nil {
-					want, wantCode = wantRatio(mean)
-				}
-				r, code := impl.TableMean(a)
-				checkRatio(t, "TableMean of "+impl.MatrixText(a), r, code, want, wantCode)
-			}
+	for a := range manyGraphs(random, 1, 4, 20, graphs) {
+		want, wantCode := impl.Ratio{}, int64(impl.ErrNotFound)
+		if mean := plainTable(a); mean != nil {
+			want, wantCode = wantRatio(mean)
 		}
+		r, code := impl.TableMean(a)
+		checkRatio(t, "TableMean of "+impl.MatrixText(a), r, code, want, wantCode)
 	}
 }
 
 // TestP04Guarantee is the promise: the cycle mean is reached by a cycle and bounded by a potential,
 // and the table mean is equal to it.
 func TestP04Guarantee(t *testing.T) {
-	random := newRandom(44)
-	codes := map[int64]int{}
-	for n := 1; n <= maxSize; n++ {
-		for range 40 {
-			for _, a := range graphs(random, n) {
-				codes[checkGuarantee(t, a)]++
-			}
-		}
-	}
-	if codes[impl.ErrNone] < 1000 || codes[impl.ErrNotFound] < 50 || codes[impl.ErrLimit] < 500 {
-		t.Errorf("the graphs are too much alike: %v", codes)
-	}
+	checkEach(t, manyGraphs(newRandom(44), 1, maxSize, 40, graphs), checkGuarantee, map[int64]int{impl.ErrNone: 1000, impl.ErrNotFound: 50, impl.ErrLimit: 500})
 }
 
 func checkGuarantee(t *testing.T, a [][]int64) int64 {
@@ -638,28 +615,22 @@ func TestP04PotentialOf(t *testing.T) {
 func TestP04PotentialsAreTheLeast(t *testing.T) {
 	random := newRandom(46)
 	codes := map[int64]int{}
-	for n := 1; n <= maxSize; n++ {
-		for range 6 {
-			for _, a := range graphs(random, n) {
-				ratios := someRatios(random)
-				if mean, code := impl.CycleMean(a); code == impl.ErrNone {
-					ratios = append(ratios, mean)
-					for _, step := range []int64{-1, 1} {
-						near, code := wantRatio(big.NewRat(7*mean.Num+step, 7*mean.Den))
-						if code == impl.ErrNone {
-							ratios = append(ratios, near)
-						}
-					}
-				}
-				for _, r := range ratios {
-					codes[checkPotential(t, a, r)]++
+	for a := range manyGraphs(random, 1, maxSize, 6, graphs) {
+		ratios := someRatios(random)
+		if mean, code := impl.CycleMean(a); code == impl.ErrNone {
+			ratios = append(ratios, mean)
+			for _, step := range []int64{-1, 1} {
+				near, code := wantRatio(big.NewRat(7*mean.Num+step, 7*mean.Den))
+				if code == impl.ErrNone {
+					ratios = append(ratios, near)
 				}
 			}
 		}
+		for _, r := range ratios {
+			codes[checkPotential(t, a, r)]++
+		}
 	}
-	if codes[impl.ErrNone] < 1000 || codes[impl.ErrState] < 1000 || codes[impl.ErrLimit] < 500 {
-		t.Errorf("the graphs are too much alike: %v", codes)
-	}
+	checkVaried(t, codes, map[int64]int{impl.ErrNone: 1000, impl.ErrState: 1000, impl.ErrLimit: 500})
 }
 
 func checkPotential(t *testing.T, a [][]int64, r impl.Ratio) int64 {
