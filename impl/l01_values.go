@@ -207,8 +207,8 @@ func reduced(num int64, den int64) Ratio {
 	return Ratio{Num: num / divisor, Den: den / divisor}
 }
 
-// greatestDivisor returns the greatest common divisor of two numbers, of which b is not 0; the
-// signs do not matter.
+// greatestDivisor returns the greatest common divisor of two numbers, or 0 if both are 0; the signs
+// do not matter.
 func greatestDivisor(a int64, b int64) int64 {
 	for a != 0 {
 		a, b = b%a, a
