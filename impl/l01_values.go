@@ -79,6 +79,15 @@ func (a value) checked() (int64, int64) {
 	return int64(a), ErrNone
 }
 
+func areValues(list []int64) bool {
+	for _, a := range list {
+		if !IsValue(a) {
+			return false
+		}
+	}
+	return true
+}
+
 // IsValue reports whether a is a value.
 func IsValue(a int64) bool { return value(a).isValid() }
 
