@@ -88,6 +88,20 @@ func areValues(list []int64) bool {
 	return true
 }
 
+// readValues returns the values with the given texts, and true, or nil and false if one of them is the
+// text of nothing.
+func readValues(texts ...string) ([]int64, bool) {
+	var list []int64
+	for _, text := range texts {
+		a, ok := ReadValue(text)
+		if !ok {
+			return nil, false
+		}
+		list = append(list, a)
+	}
+	return list, true
+}
+
 // IsValue reports whether a is a value.
 func IsValue(a int64) bool { return value(a).isValid() }
 
