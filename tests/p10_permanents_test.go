@@ -992,6 +992,10 @@ func TestP10CallsAtTheSameTime(t *testing.T) {
 				checkList(t, "CharPolynomial beside others", c, code, weights, impl.ErrNone)
 				best, code := impl.BestAssignment(unitOf(n))
 				checkList(t, "BestAssignment beside others", best, code, upTo(n), impl.ErrNone)
+				is, code := impl.IsSingular(unitOf(n))
+				checkAnswer(t, "IsSingular beside others", is, code, false, impl.ErrNone)
+				is, code = impl.IsSingular(filled(n, n, 3))
+				checkAnswer(t, "IsSingular beside others", is, code, n > 1, impl.ErrNone)
 			}()
 		}
 	}
